@@ -647,6 +647,25 @@ func TestPointsOfAllFamiliesAreUnlike(t *testing.T) {
 	checkGood(t, []impl.Family{info, gauge("a_info")}, false)
 }
 
+// Promise 27: what is very long is answered like all else that is not good.
+func TestVeryLongForms(t *testing.T) {
+	long := strings.Repeat("a", 1000000)
+	for _, f := range []impl.Family{
+		{Name: long, Kind: 1}, {Name: "a", Kind: 1, Help: long}, {Name: "a", Kind: 1, Points: make([]impl.Point, 100000)}, {Name: "a", Kind: 1, Points: []impl.Point{{Suffix: long}}},
+		{Name: "a", Kind: 1, Points: []impl.Point{{Labels: manyLabels(100000)}}}, {Name: "a", Kind: 2, Points: []impl.Point{{Suffix: "_total", Ex: impl.Exemplar{Has: true, Labels: labelsOf("a", long)}}}},
+	} {
+		if impl.GoodFamily(f) || impl.GoodFamilies([]impl.Family{f}) || impl.FormText([]impl.Family{f}) != "" || len(impl.PackForm([]impl.Family{f})) > 0 || len(impl.Flatten([]impl.Family{f}, 1)) > 0 {
+			t.Errorf("a long family of %d points is good", len(f.Points))
+		}
+	}
+	if l := make([]impl.Family, 100000); impl.GoodFamilies(l) || impl.FormText(l) != "" || len(impl.PackForm(l)) > 0 || len(impl.Flatten(l, 1)) > 0 {
+		t.Errorf("a long list is good")
+	}
+	if got := impl.ReadForm(strings.Repeat("# end\n", 1000000)); !same(got, impl.FormRes{Err: 1}) {
+		t.Errorf("a long text: %+v", got)
+	}
+}
+
 func TestLimitsOfForms(t *testing.T) {
 	var many []impl.Family
 	for i := range 51 {
