@@ -12,9 +12,29 @@ func same(a any, b any) bool {
 	return sameValues(reflect.ValueOf(a), reflect.ValueOf(b))
 }
 
+// isPlain says whether values of a type have no lists, so that nothing of them needs to be looked into.
+func isPlain(t reflect.Type) bool {
+	switch t.Kind() {
+	case reflect.Slice, reflect.Map, reflect.Pointer, reflect.Interface, reflect.Func:
+		return false
+	case reflect.Array:
+		return isPlain(t.Elem())
+	case reflect.Struct:
+		for i := range t.NumField() {
+			if !isPlain(t.Field(i).Type) {
+				return false
+			}
+		}
+	}
+	return true
+}
+
 func sameValues(a reflect.Value, b reflect.Value) bool {
 	if a.IsValid() != b.IsValid() || a.IsValid() && a.Type() != b.Type() {
 		return false
+	}
+	if a.IsValid() && isPlain(a.Type()) {
+		return a.Equal(b)
 	}
 	switch a.Kind() {
 	case reflect.Slice, reflect.Array:
@@ -70,6 +90,10 @@ func whole(v reflect.Value) reflect.Value {
 	case reflect.Slice:
 		all := v.Slice(0, v.Cap())
 		out := reflect.MakeSlice(v.Type(), all.Len(), all.Len())
+		if isPlain(v.Type().Elem()) {
+			reflect.Copy(out, all)
+			return out
+		}
 		for i := range all.Len() {
 			out.Index(i).Set(whole(all.Index(i)))
 		}
@@ -102,6 +126,9 @@ func spans(v reflect.Value) []span {
 	case reflect.Slice:
 		if size := uintptr(v.Cap()) * v.Type().Elem().Size(); size > 0 {
 			out = append(out, span{v.Pointer(), v.Pointer() + size})
+		}
+		if isPlain(v.Type().Elem()) {
+			return out
 		}
 		for i := range v.Len() {
 			out = append(out, spans(v.Index(i))...)
