@@ -943,6 +943,15 @@ func TestRecordsThatAreNotRight(t *testing.T) {
 	}
 }
 
+// noiseBytes are any bytes, small ones more often.
+func noiseBytes(r *rand.Rand) []byte {
+	noise := make([]byte, r.Intn(60))
+	for i := range noise {
+		noise[i] = byte(r.Intn(1 << (1 + r.Intn(8))))
+	}
+	return noise
+}
+
 // Bytes near to those of logs, with sums that are right.
 func TestLogsChangedAtRandom(t *testing.T) {
 	r := rand.New(rand.NewSource(88))
@@ -984,10 +993,7 @@ func TestLogsChangedAtRandom(t *testing.T) {
 		t.Errorf("%d with more, %d without", more, less)
 	}
 	for range 3000 {
-		noise := make([]byte, r.Intn(60))
-		for i := range noise {
-			noise[i] = byte(r.Intn(1 << (1 + r.Intn(8))))
-		}
+		noise := noiseBytes(r)
 		checkReadLog(t, noise)
 		checkReadLog(t, slices.Concat(log, noise))
 	}
