@@ -35,8 +35,11 @@ func goodLabelsModel(l []impl.Label) bool {
 	return len(l) <= 20
 }
 
+// escapes is made once, as making it takes longer than what it does.
+var escapes = strings.NewReplacer(`"`, `\"`, `\`, `\\`)
+
 func quotedModel(s string) string {
-	return `"` + strings.NewReplacer(`"`, `\"`, `\`, `\\`).Replace(s) + `"`
+	return `"` + escapes.Replace(s) + `"`
 }
 
 func labelsTextModel(l []impl.Label) string {

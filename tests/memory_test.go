@@ -12,8 +12,20 @@ func same(a any, b any) bool {
 	return sameValues(reflect.ValueOf(a), reflect.ValueOf(b))
 }
 
+// plainTypes are those that isPlain has been asked of.
+var plainTypes = map[reflect.Type]bool{}
+
 // isPlain says whether values of a type have no lists, so that nothing of them needs to be looked into.
 func isPlain(t reflect.Type) bool {
+	plain, known := plainTypes[t]
+	if !known {
+		plain = looksPlain(t)
+		plainTypes[t] = plain
+	}
+	return plain
+}
+
+func looksPlain(t reflect.Type) bool {
 	switch t.Kind() {
 	case reflect.Slice, reflect.Map, reflect.Pointer, reflect.Interface, reflect.Func:
 		return false
@@ -70,7 +82,11 @@ func layValue(v reflect.Value, room int) reflect.Value {
 			return v
 		}
 		out := reflect.MakeSlice(v.Type(), v.Len()+room, v.Len()+room)
-		for i := range out.Len() {
+		done := 0
+		if isPlain(v.Type().Elem()) {
+			done = reflect.Copy(out, v)
+		}
+		for i := done; i < out.Len(); i++ {
 			out.Index(i).Set(layValue(v.Index(i%v.Len()), room))
 		}
 		return out.Slice(0, v.Len())
