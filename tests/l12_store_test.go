@@ -148,7 +148,16 @@ func selectStoreModel(c impl.StoreConf, s impl.Store, m []impl.Matcher, from int
 	if !goodStoreModel(c, s) || !goodMatchersModel(m) {
 		return nil
 	}
-	return mergeSeriesModel(selectBlocksModel(c.Base, s.Blocks, m, from, to), selectModel(s.Head.Series, m, from, to))
+	book := bookOfBlocks(s.Blocks, m, from, to)
+	for _, x := range selectModel(s.Head.Series, m, from, to) {
+		for _, y := range x.Samples {
+			book.write(impl.Put{Labels: x.Labels, Time: y.Time, Value: y.Value})
+		}
+	}
+	if out := book.head().Series; goodSeriesModel(out) {
+		return out
+	}
+	return nil
 }
 
 func checkGoodStore(t *testing.T, c impl.StoreConf, s impl.Store) bool {
@@ -1276,12 +1285,82 @@ func TestSelectedStoresAtTheirLimits(t *testing.T) {
 			t.Errorf("1998 samples and %d: %s", n, shortly(got))
 		}
 	}
-	// SelectBlocks says nothing of blocks that have too much; what the head has is said beside that.
-	s := stored(t, c, opPut(at("head", 2000)))
-	s.Blocks = halves(201)
-	s.Blocks = s.Blocks[:2]
-	if got := checkSelectStore(t, c, s, nil, 0, maxTime); lastEnd(s.Blocks) != 2000 || len(got) != 1 || len(checkSelectBlocks(t, 1000, s.Blocks, nil, 0, maxTime)) > 0 {
-		t.Errorf("%s", shortly(got))
+}
+
+// Promise 12: never a part of what was taken is said: blocks that alone have too much say nothing, with whatever head behind them, and the spans of which they have just as much as can be are said whole.
+func TestBlocksThatAloneAreTooMuch(t *testing.T) {
+	c := impl.StoreConf{Window: 0, Limit: 200, Base: 1000, Keep: 25}
+	for _, n := range []int{199, 200, 201, 250} {
+		for _, heads := range []int{0, 1, 2} {
+			s := impl.Store{Head: impl.NewHead(0, 200), Blocks: halves(n)}
+			for i := range heads {
+				s, _ = checkStep(t, c, s, opPut(at(fmt.Sprint("head", i), 2000)))
+			}
+			want := n + heads
+			if want > 200 {
+				want = 0
+			}
+			if got := checkSelectStore(t, c, s, nil, 0, maxTime); len(got) != want {
+				t.Errorf("%d series in blocks, %d in the head: %d", n, heads, len(got))
+			}
+			// What fits, or lies in the span, is all that counts.
+			first, second, last := checkSelectStore(t, c, s, nil, 0, 999), checkSelectStore(t, c, s, nil, 1000, 1999), checkSelectStore(t, c, s, nil, 2000, maxTime)
+			if len(first) != (n+1)/2 || len(second) != n/2 || len(last) != heads {
+				t.Errorf("%d and %d in parts: %d, %d, %d", n, heads, len(first), len(second), len(last))
+			}
+			likeHead := []impl.Matcher{{Name: "_name", Op: impl.MatchLike, Value: "head*"}}
+			if got := checkSelectStore(t, c, s, likeHead, 0, maxTime); len(got) != heads {
+				t.Errorf("%d and %d, those of the head: %d", n, heads, len(got))
+			}
+		}
+	}
+	// One series in blocks, head or both: from any time on it is said whole as long as it is not too long.
+	for _, inBlocks := range []int{0, 1, 999, 1000, 1999, 2000, 2001, 3000} {
+		s := impl.Store{Head: impl.NewHead(0, 200)}
+		for k := 0; 1000*k < inBlocks; k++ {
+			s.Blocks = append(s.Blocks, fullSeries(blockAt(1000, 1, k), min(1000, inBlocks-1000*k)))
+		}
+		end := lastEnd(s.Blocks)
+		for _, inHead := range []int{0, 1, 500, 2000} {
+			next := s
+			for at := 0; at < inHead; at += 500 {
+				next, _ = checkStep(t, c, next, opPut(ats("up", upFrom(min(500, inHead-at), end+at, 1)...)...))
+			}
+			all := inBlocks + inHead
+			for _, from := range []int{0, max(0, inBlocks-2001), max(0, inBlocks-2000), max(0, all-2001), max(0, all-2000), end} {
+				left := inHead + max(0, inBlocks-from)
+				got := checkSelectStore(t, c, next, nil, from, maxTime)
+				if left > 2000 && len(got) > 0 || left > 0 && left <= 2000 && (len(got) != 1 || len(got[0].Samples) != left) {
+					t.Errorf("%d in blocks, %d in the head, from %d on: %s", inBlocks, inHead, from, shortly(got))
+				}
+			}
+		}
+	}
+}
+
+// Promise 12: what is said of puts that were all taken does not hang on where the cuts were.
+func TestWhatIsSaidDoesNotHangOnWhereItLies(t *testing.T) {
+	c := impl.StoreConf{Window: 0, Limit: 10, Base: 250, Keep: 25}
+	for _, cuts := range [][]int{{0, 1, 2, 3, 4, 5}, {3}, {1, 4}, {2}, {0, 1, 2, 3}} {
+		s := impl.NewStore(c)
+		for k := range 6 {
+			next, codes := checkStep(t, c, s, opPut(ats("up", upFrom(500, 500*k, 1)...)...))
+			if slices.Max(codes) != impl.PutTaken {
+				t.Fatalf("cuts %v: %v", cuts, codes)
+			}
+			if s = next; slices.Contains(cuts, k) {
+				s, _ = checkStep(t, c, s, opCut)
+			}
+		}
+		for _, x := range []struct{ from, to, want int }{{0, maxTime, 0}, {0, 1999, 2000}, {0, 2000, 0}, {1000, 2999, 2000}, {999, 2999, 0}, {500, 2499, 2000}, {499, 2499, 0}, {500, 2500, 0}, {2999, maxTime, 1}, {0, 0, 1}} {
+			got := 0
+			for _, l := range checkSelectStore(t, c, s, nil, x.from, x.to) {
+				got += len(l.Samples)
+			}
+			if got != x.want {
+				t.Errorf("cuts %v, %d..%d: %d", cuts, x.from, x.to, got)
+			}
+		}
 	}
 }
 
