@@ -153,12 +153,11 @@ func (r toldRecord) mayStand(series [][]impl.Label) bool {
 	return r.mark >= 0 && r.mark <= maxTime
 }
 
+// readLogModel takes record by record; of bytes beyond MaxLog it knows nothing.
 func readLogModel(data []byte) impl.LogRes {
 	var out impl.LogRes
 	var series [][]impl.Label
-	if len(data) > maxLog {
-		return out
-	}
+	data = data[:min(maxLog, len(data))]
 	for at := 0; ; {
 		r, n, ok := recordModel(data[at:])
 		if !ok || !r.mayStand(series) {
@@ -601,7 +600,7 @@ func TestReplayOfWrongArguments(t *testing.T) {
 			}
 		}
 	}
-	if h := checkReplay(t, 5, 5, long); !same(h, impl.NewHead(5, 5)) {
+	if h := checkReplay(t, 5, 5, long); !same(h, impl.Replay(5, 5, data)) || h.Newest != 9 {
 		t.Errorf("beyond MaxLog: %v", h)
 	}
 	if h := checkReplay(t, 5, 5, append(slices.Clone(data), noise...)); !same(h, impl.Replay(5, 5, data)) {
@@ -1177,17 +1176,6 @@ func TestReadLogsAtMaxLog(t *testing.T) {
 			t.Errorf("%d bytes: %v", size, h)
 		}
 	}
-	for _, data := range [][]byte{logOfSize(maxLog + 1), logOfSize(maxLog + 100), append(logOfSize(maxLog), 0), append(logOfSize(maxLog-50), make([]byte, 51)...)} {
-		if got := checkReadLog(t, data); !same(got, impl.LogRes{}) {
-			t.Errorf("%d bytes: %d are good", len(data), got.Good)
-		}
-		if a, b := checkLogMark(t, data, 5), checkLogPuts(t, data, []impl.Put{{Labels: labelsOf("_name", "up")}}); len(a)+len(b) > 0 {
-			t.Errorf("%d bytes go on", len(data))
-		}
-		if h := checkReplay(t, 5, 5, data); !same(h, impl.NewHead(5, 5)) {
-			t.Errorf("%d bytes: %v", len(data), h)
-		}
-	}
 	// With bytes behind it that are no batch, but not beyond MaxLog, what is good stays.
 	if got := checkReadLog(t, append(logOfSize(maxLog-50), make([]byte, 50)...)); got.Good != maxLog-50 {
 		t.Errorf("%d are good", got.Good)
@@ -1235,6 +1223,77 @@ func TestCrashedLogs(t *testing.T) {
 	}
 	if got := impl.ReadLog(memory[:20]); got.Good != 0 {
 		t.Errorf("bytes from behind: %v", got)
+	}
+}
+
+// checkBeyond sees that of bytes beyond MaxLog just the batches are told that end at good or ahead of it, and that nothing can be put behind them.
+func checkBeyond(t *testing.T, name string, data []byte, good int) {
+	t.Helper()
+	if len(data) <= maxLog {
+		t.Fatalf("%s: only %d bytes", name, len(data))
+	}
+	got, told := checkReadLog(t, data), impl.ReadLog(data[:good])
+	if got.Good != good || told.Good != good || !same(got, told) {
+		t.Errorf("%s, %d bytes: %d are good, not %d", name, len(data), got.Good, good)
+	}
+	if h := checkReplay(t, 5, 5, data); !same(h, impl.Replay(5, 5, data[:good])) {
+		t.Errorf("%s, %d bytes: %v", name, len(data), h)
+	}
+	if a, b := checkLogMark(t, data, 5), checkLogPuts(t, data, []impl.Put{{Labels: labelsOf("_name", "up")}}); len(a)+len(b) > 0 {
+		t.Errorf("%s, %d bytes go on", name, len(data))
+	}
+	if got := checkCrash(t, data, good); len(got) > 0 {
+		t.Errorf("%s, %d bytes crash", name, len(data))
+	}
+}
+
+// Bytes beyond MaxLog are of no batch; the batches that are whole ahead of them are told all the same.
+func TestLogsBeyondMaxLog(t *testing.T) {
+	small, _ := smallLog()
+	for _, data := range [][]byte{markRecord(5), small, seriesRecord(1, labelsOf("_name", "up")), {7}, nil} {
+		good := readLogModel(data).Good
+		for _, size := range []int{maxLog + 1, 300000} {
+			for _, fill := range []byte{0, 3, 255} {
+				checkBeyond(t, "a short log", append(slices.Clone(data), bytes.Repeat([]byte{fill}, size-len(data))...), good)
+			}
+		}
+	}
+	for _, size := range []int{maxLog + 1, maxLog + 11, maxLog + 12, maxLog + 100} {
+		data, good := logOfSize(size), 0
+		ends, batch := recordEnds(data)
+		for i, end := range ends {
+			if end <= maxLog && batch[i] {
+				good = end
+			}
+		}
+		if good < maxLog-12 {
+			t.Fatalf("%d bytes: the last mark ends at %d", size, good)
+		}
+		checkBeyond(t, "marks", data, good)
+	}
+	for _, behind := range [][]byte{{0}, markRecord(5), logOfSize(maxLog)} {
+		checkBeyond(t, "a full log", slices.Concat(logOfSize(maxLog), behind), maxLog)
+		checkBeyond(t, "nearly a full log", slices.Concat(logOfSize(maxLog-1), []byte{3}, behind), maxLog-1)
+	}
+}
+
+// A batch with bytes on both sides of MaxLog is none, wherever in it MaxLog lies, and its series are not told.
+func TestBatchesOnBothSidesOfMaxLog(t *testing.T) {
+	fresh, last := seriesRecord(2, labelsOf("_name", "new")), samplesRecord(sampleRow{1, 5, 5}, sampleRow{2, 300, 300})
+	batch := slices.Concat(fresh, last)
+	for _, over := range []int{1, 4, 5, len(last) - 1, len(last), len(last) + 1, len(batch) - 1} {
+		size := maxLog - len(batch) + over
+		checkBeyond(t, "a batch of puts", slices.Concat(logOfSize(size), batch), size)
+		checkBeyond(t, "and another one", slices.Concat(logOfSize(size), batch, markRecord(7)), size)
+	}
+	// One byte less in all, and it is whole: with and without more behind it.
+	full := slices.Concat(logOfSize(maxLog-len(batch)), batch)
+	if got := checkReadLog(t, full); got.Good != maxLog || len(got.Series) != 2 {
+		t.Errorf("%d are good, %d series", got.Good, len(got.Series))
+	}
+	checkBeyond(t, "a whole batch", slices.Concat(full, markRecord(7)), maxLog)
+	for _, over := range []int{1, 4, 10, 11} {
+		checkBeyond(t, "a mark", slices.Concat(logOfSize(maxLog-12+over), markRecord(maxTime)), maxLog-12+over)
 	}
 }
 
